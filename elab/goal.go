@@ -48,7 +48,7 @@ func (m *maker) guided(f api.Form) func(goal, api.Form) told {
 		return nil
 	}
 	w, ok := m.head(f.L)
-	if !ok || !m.stand(f.L[1:], w.open) {
+	if !ok || w.bare && f.L[1].Kind != api.FName {
 		return nil
 	}
 	return w.made

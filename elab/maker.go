@@ -5,8 +5,8 @@ import (
 
 	"thyrsus/api"
 	"thyrsus/conv"
-	"thyrsus/forms"
 	"thyrsus/norm"
+	"thyrsus/shape"
 	"thyrsus/term"
 )
 
@@ -39,15 +39,11 @@ type told struct {
 // newMaker has an error at once, if it is handed what may not be.
 func newMaker(e Env, f api.Form) *maker {
 	m := &maker{words: words(), defs: e.Defs}
-	switch {
-	case len(e.Names) != len(e.G):
+	if len(e.Names) != len(e.G) {
 		m.fail(api.ErrArg)
 		return m
-	case formsLeft(f, mostForms) < 0:
-		m.fail(api.ErrDeep)
-		return m
 	}
-	m.fail(forms.Check(f))
+	m.fail(shape.Check(f))
 	for i, v := range e.G {
 		m.scope = append(m.scope, variable{name: e.Names[i], stage: v.Stage, a: v.T})
 	}
@@ -92,10 +88,20 @@ func (m *maker) infer(f api.Form) told {
 	return x
 }
 
+// head is the word by which a list is told, the list being as that word asks;
+// false: the list is none.
+func (m *maker) head(l []api.Form) (word, bool) {
+	s, ok := shape.Head(l)
+	if !ok {
+		m.fail(api.ErrForm)
+	}
+	return m.words[s], ok
+}
+
 // name tells what a name stands for.
 func (m *maker) name(s string) told {
-	if w, ok := m.words[s]; ok {
-		return w.itself(m)
+	if shape.Word(s) {
+		return m.words[s].itself(m)
 	}
 	for n := range m.scope {
 		if at := len(m.scope) - 1 - n; m.scope[at].name == s {

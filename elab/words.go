@@ -4,20 +4,18 @@ import (
 	"thyrsus/api"
 )
 
-// word is one that nobody may name: what it tells where it stands alone; how
-// the forms behind it must stand where it begins a list (nothing: it begins
-// none, as there is one form at least behind a word), and what tells that list.
-// The term of a list that stands as open has it is made of the type that it is
-// to have, where there is one: by made.
+// word is one that nobody may name: what it tells where it stands alone, and
+// what tells a list that it begins. The term of a list is made of the type that
+// it is to have, where there is one, by made; of a word that is bare only where
+// a name, without its type, stands behind it.
 type word struct {
 	alone func(*maker) told
-	shape string
 	infer func(*maker, []api.Form) told
-	open  string
 	made  func(goal, api.Form) told
+	bare  bool
 }
 
-// words are all of them, by their names.
+// words are those that tell anything, by their names; by none: a call.
 func words() map[string]word {
 	function, pair := former{api.Pi, api.TFun}, former{api.Sig, api.TPro}
 	small, whole := level(0), leaf(api.TInt)
@@ -30,29 +28,29 @@ func words() map[string]word {
 		"Ty":   {alone: told{leaf(api.Ty), meta, small}.always},
 		"Int":  {alone: told{whole, meta, leaf(api.Ty)}.always},
 
-		"fn":     {shape: "b.", infer: (*maker).function, open: "n.", made: goal.function},
-		"pi":     {shape: "v.", infer: function.named},
-		"sig":    {shape: "v.", infer: pair.named},
-		"->":     {shape: "..", infer: function.nameless},
-		"*":      {shape: "..", infer: pair.nameless},
-		"pair":   {shape: "..", infer: (*maker).pair, open: "..", made: goal.pair},
-		"fst":    {shape: ".", infer: (*maker).first},
-		"snd":    {shape: ".", infer: (*maker).second},
-		"suc":    {shape: ".", infer: (*maker).successor},
-		"rec":    {shape: "v.s.", infer: (*maker).recursion},
-		"lift":   {shape: ".", infer: (*maker).lift},
-		"quote":  {shape: ".", infer: (*maker).quote},
-		"splice": {shape: ".", infer: (*maker).splice},
-		"add":    {shape: "..", infer: prim(api.PAdd).infer},
-		"sub":    {shape: "..", infer: prim(api.PSub).infer},
-		"mul":    {shape: "..", infer: prim(api.PMul).infer},
-		"div":    {shape: "..", infer: prim(api.PDiv).infer},
-		"less":   {shape: "..", infer: prim(api.PLes).infer},
-		"if":     {shape: "...", infer: (*maker).choice, open: "...", made: goal.choice},
-		"let":    {shape: "v.", infer: (*maker).let},
-		"fix":    {shape: "v.", infer: (*maker).fix},
-		"the":    {shape: "..", infer: (*maker).the},
-		"def":    {},
+		"fn":     {infer: (*maker).function, made: goal.function, bare: true},
+		"pi":     {infer: function.named},
+		"sig":    {infer: pair.named},
+		"->":     {infer: function.nameless},
+		"*":      {infer: pair.nameless},
+		"pair":   {infer: (*maker).pair, made: goal.pair},
+		"fst":    {infer: (*maker).first},
+		"snd":    {infer: (*maker).second},
+		"suc":    {infer: (*maker).successor},
+		"rec":    {infer: (*maker).recursion},
+		"lift":   {infer: (*maker).lift},
+		"quote":  {infer: (*maker).quote},
+		"splice": {infer: (*maker).splice},
+		"add":    {infer: prim(api.PAdd).infer},
+		"sub":    {infer: prim(api.PSub).infer},
+		"mul":    {infer: prim(api.PMul).infer},
+		"div":    {infer: prim(api.PDiv).infer},
+		"less":   {infer: prim(api.PLes).infer},
+		"if":     {infer: (*maker).choice, made: goal.choice},
+		"let":    {infer: (*maker).let},
+		"fix":    {infer: (*maker).fix},
+		"the":    {infer: (*maker).the},
+		"":       {infer: (*maker).call},
 	}
 }
 
